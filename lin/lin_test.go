@@ -11,8 +11,8 @@ import (
 	"slotwright/api"
 )
 
-// published returns the protected identifiers 0 to 63 as data sheets of the LIN bus list them.
-func published() []byte {
+// table returns the protected identifiers of 0 to 63, written out. TestParityBits derives the same parity bits from the words of the chapter.
+func table() []byte {
 	return []byte{
 		0x80, 0xc1, 0x42, 0x03, 0xc4, 0x85, 0x06, 0x47,
 		0x08, 0x49, 0xca, 0x8b, 0x4c, 0x0d, 0x8e, 0xcf,
@@ -47,9 +47,9 @@ func written(f api.Frame, newer bool) ([]byte, api.Errno) {
 	}
 	covered := f.Data
 	if newer {
-		covered = slices.Concat([]byte{published()[f.Id]}, f.Data)
+		covered = slices.Concat([]byte{table()[f.Id]}, f.Data)
 	}
-	return slices.Concat([]byte{published()[f.Id]}, f.Data, []byte{inverted(covered)}), api.OK
+	return slices.Concat([]byte{table()[f.Id]}, f.Data, []byte{inverted(covered)}), api.OK
 }
 
 // decoded reads a frame by looking for the identifier that leads to the same bytes.
@@ -60,7 +60,7 @@ func decoded(b []byte, newer bool) (api.Frame, api.Errno) {
 	if len(b) > 10 {
 		return api.Frame{}, api.ErrForm
 	}
-	f := api.Frame{Id: slices.Index(published(), b[0]), Data: b[1 : len(b)-1]}
+	f := api.Frame{Id: slices.Index(table(), b[0]), Data: b[1 : len(b)-1]}
 	if want, err := written(f, newer); err != api.OK || !bytes.Equal(want, b) {
 		return api.Frame{}, api.ErrSum
 	}
@@ -97,7 +97,7 @@ func checkRead(t *testing.T, b []byte, newer bool) {
 
 // G1: the protected identifiers of all 64 identifiers.
 func TestGuard(t *testing.T) {
-	for id, want := range published() {
+	for id, want := range table() {
 		if got, err := Guard(id); got != want || err != api.OK {
 			t.Errorf("Guard(%#x) = %#x, %d; want %#x", id, got, err, want)
 		}
@@ -116,7 +116,7 @@ func TestGuardRange(t *testing.T) {
 // G1: Number of all 256 bytes.
 func TestNumber(t *testing.T) {
 	for b := range 256 {
-		want, wantErr := slices.Index(published(), byte(b)), api.OK
+		want, wantErr := slices.Index(table(), byte(b)), api.OK
 		if want < 0 {
 			want, wantErr = 0, api.ErrSum
 		}
@@ -159,7 +159,7 @@ func TestSum(t *testing.T) {
 		{"a sum of 255 after a carry", []byte{255, 128, 127}, 0},
 		{"two carries", []byte{255, 255, 1}, 254},
 		{"a carry in the middle", []byte{200, 100, 3}, 207},
-		{"the example of the LIN specification", []byte{0x4a, 0x55, 0x93, 0xe5}, 0xe6},
+		{"two carries in four bytes", []byte{0x4a, 0x55, 0x93, 0xe5}, 0xe6},
 		{"many of the largest bytes", bytes.Repeat([]byte{255}, 1000), 0},
 		{"many ones", bytes.Repeat([]byte{1}, 256), 254},
 	} {
