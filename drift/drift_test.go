@@ -352,12 +352,12 @@ func TestAllLimits(t *testing.T) {
 			clocks = append(clocks, api.Clock{Rate: rate, Off: off})
 		}
 	}
-	for k, c := range clocks {
+	for _, c := range clocks {
 		for _, v := range times {
 			checkShows(t, c, v)
 			checkWhen(t, c, v)
-			for other := k % 7; other < len(clocks); other += 7 {
-				checkApart(t, c, clocks[other], v)
+			for _, other := range clocks {
+				checkApart(t, c, other, v)
 			}
 		}
 		for _, near := range []int{c.Off - 1, c.Off, c.Off + 1} {
